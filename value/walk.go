@@ -1,0 +1,44 @@
+package value
+
+import "concordat/api"
+
+// place is where a list of entries stands. Trees may have one list in common, and a list may even stand in itself: what goes by places looks into each list once, so that it ends, and soon.
+type place struct {
+	first *api.Entry
+	count int
+}
+
+func placeOf(l []api.Entry) place {
+	if len(l) == 0 {
+		return place{}
+	}
+	return place{first: &l[0], count: len(l)}
+}
+
+// messages are the entries of those trees that are messages, each list once.
+func messages(l []api.Tree) [][]api.Entry {
+	var out [][]api.Entry
+	seen := map[place]struct{}{}
+	for _, t := range l {
+		if t.Kind != api.TreeMsg {
+			continue
+		}
+		at := placeOf(t.Entries)
+		if _, ok := seen[at]; !ok {
+			seen[at] = struct{}{}
+			out = append(out, t.Entries)
+		}
+	}
+	return out
+}
+
+// inside are all trees of these entries.
+func inside(level [][]api.Entry) []api.Tree {
+	var out []api.Tree
+	for _, entries := range level {
+		for _, e := range entries {
+			out = append(out, e.Trees...)
+		}
+	}
+	return out
+}
