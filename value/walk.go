@@ -2,7 +2,7 @@ package value
 
 import "concordat/api"
 
-// place is where a list of entries stands. Trees may have one list in common, and a list may even stand in itself: what goes by places looks into each list once, so that it ends, and soon.
+// place is where a list of entries stands. Trees may have one list in common, and a list may even stand in itself: by its place it is known again, and not looked into twice in one level (by Same: twice beside the same list), so that the walk ends, and soon.
 type place struct {
 	first *api.Entry
 	count int
@@ -15,7 +15,7 @@ func placeOf(l []api.Entry) place {
 	return place{first: &l[0], count: len(l)}
 }
 
-// messages are the entries of those trees that are messages, each list once.
+// messages are the entries of those trees that are messages, no list twice.
 func messages(l []api.Tree) [][]api.Entry {
 	var out [][]api.Entry
 	seen := map[place]struct{}{}
